@@ -5,6 +5,7 @@ import (
 	"gleaner/arena"
 	"gleaner/grey"
 	"gleaner/index"
+	"gleaner/made"
 )
 
 // Marker marks what can be come to. It has of its parts what it asks of them alone, so that it can be tried over others.
@@ -31,7 +32,7 @@ type row interface {
 
 // New is a marker over these (P16.1).
 func New(a *arena.Arena, x *index.Index, l *grey.List) *Marker {
-	if !isArena(a) || !isIndex(x) || !isList(l) {
+	if !made.Arena(a) || !made.Index(x) || !isList(l) {
 		return nil
 	}
 	return &Marker{read: a.Read, index: x, list: l}
@@ -39,19 +40,7 @@ func New(a *arena.Arena, x *index.Index, l *grey.List) *Marker {
 
 func (m *Marker) none() bool { return m == nil || m.read == nil }
 
-// A zero part, which no call of its package made, is as a nil one. That is seen by what it answers alone: it has no size, or it takes nothing in.
-
-func isArena(a *arena.Arena) bool { return a.Config() != api.Config{} }
-
-func isIndex(x *index.Index) bool {
-	if x.Len() > 0 {
-		return true
-	}
-	took := x.Put(api.Key{}, api.Entry{})
-	x.Del(api.Key{})
-	return took
-}
-
+// isList tells whether a call of its package made a list: another one takes nothing in.
 func isList(l *grey.List) bool {
 	l.Push(api.Key{})
 	_, took := l.Pop(false)
