@@ -5,6 +5,8 @@ import (
 	"gleaner/api"
 	"gleaner/arena"
 	"gleaner/index"
+	"gleaner/pins"
+	"gleaner/roots"
 )
 
 // Arena tells it of an arena: one that was not made has no size.
@@ -19,3 +21,12 @@ func Index(x *index.Index) bool {
 	x.Del(api.Key{})
 	return took
 }
+
+// Roots tells it of a table of roots: each that was made has a version 0.
+func Roots(r *roots.Roots) bool {
+	_, no := r.At(0)
+	return no == api.OK
+}
+
+// Pins tells it of sessions: those that were made refuse a number that is no session's for that number's sake.
+func Pins(p *pins.Pins) bool { return p.Open(-1) == api.ErrSession }

@@ -8,6 +8,8 @@ import (
 	"gleaner/arena"
 	"gleaner/index"
 	"gleaner/made"
+	"gleaner/pins"
+	"gleaner/roots"
 )
 
 // P0.1: of arenas of all sizes, of one that is full, and of one that From made; of a nil one and a zero one.
@@ -71,6 +73,56 @@ func TestIndex(t *testing.T) {
 	for i, x := range []*index.Index{nil, {}} {
 		if made.Index(x) || made.Index(x) || x.Len() != 0 {
 			t.Errorf("P0.1: none %d: it is made", i)
+		}
+	}
+}
+
+// P0.1: of tables of roots without a root, with some, of From, and of one that has none any more; each is as it was behind it. Of a nil one, a zero one, and what From refused.
+func TestRoots(t *testing.T) {
+	r := roots.New()
+	from, no := roots.From([]api.Root{{Name: "a"}, {Name: "b", Key: api.Key{1}}})
+	if !made.Roots(r) || no != api.OK || !made.Roots(from) || from.Version() != 0 || from.Len() != 2 {
+		t.Error("P0.1: roots: it is not made, or not as it was")
+	}
+	for i, name := range []string{"a", "b", "a"} {
+		if r.Set(name, api.Key{5}) != api.OK || !made.Roots(r) || r.Version() != uint64(i+1) {
+			t.Errorf("P0.1: roots, change %d: it is not made, or not as it was", i)
+		}
+	}
+	if r.Drop("a") != api.OK || r.Drop("b") != api.OK || !made.Roots(r) || r.Len() != 0 || r.Version() != 5 {
+		t.Error("P0.1: roots that are dropped: it is not made, or not as it was")
+	}
+	refused, _ := roots.From([]api.Root{{}})
+	for i, r := range []*roots.Roots{nil, {}, refused} {
+		if made.Roots(r) {
+			t.Errorf("P0.1: no roots %d: they are made", i)
+		}
+	}
+}
+
+// P0.1: of sessions, however many are open, and busy; each is as it was behind it. Of nil ones and zero ones.
+func TestPins(t *testing.T) {
+	p := pins.New()
+	for s := range api.Sessions + 1 {
+		if !made.Pins(p) || len(p.Sessions()) != s {
+			t.Errorf("P0.1: %d sessions: they are not made, or not as they were", s)
+		}
+		p.Open(s)
+		p.Enter(s)
+	}
+	for s := range api.Sessions {
+		if !made.Pins(p) || p.Busy(s) != 1 {
+			t.Errorf("P0.1: session %d: they are not made, or not as they were", s)
+		}
+		p.Leave(s)
+		p.Close(s)
+	}
+	if !made.Pins(p) {
+		t.Error("P0.1: sessions that are closed: they are not made")
+	}
+	for i, p := range []*pins.Pins{nil, {}} {
+		if made.Pins(p) {
+			t.Errorf("P0.1: no sessions %d: they are made", i)
 		}
 	}
 }
